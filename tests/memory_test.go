@@ -710,6 +710,29 @@ func TestFencedLinesSurviveEveryCrash(t *testing.T) {
 	}
 }
 
+// Lines that were fenced, and lines that never changed, among more lines than picks has bits; a negative number is no crash.
+func TestFencedLinesAmongManySurviveEveryCrash(t *testing.T) {
+	m, lines := manyCells(100)
+	m = impl.Fence(m)
+	choices := []int{0, math.MaxInt, -1, math.MinInt}
+	for bit := range 63 {
+		choices = append(choices, 1<<bit, math.MaxInt^1<<bit)
+	}
+	source := rand.New(rand.NewSource(12))
+	for range 100 {
+		choices = append(choices, source.Int())
+	}
+	for _, picks := range choices {
+		fallen := impl.FallenMemory(m, picks)
+		for i, line := range lines {
+			if line.flushed || !line.changed {
+				checkWordAt(t, fallen, 2*i, line.current[:8])
+				checkWordAt(t, fallen, 2*i+1, line.current[8:])
+			}
+		}
+	}
+}
+
 // A line that is stored after it was fenced has its fenced or its later contents after a crash, and nothing else.
 func TestFencedLinesThatAreStoredLater(t *testing.T) {
 	m := impl.Fence(impl.FlushLine(impl.StoreWord(memoryWith(false), 4, "fenced 4"), 2))
