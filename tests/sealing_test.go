@@ -193,14 +193,14 @@ func differentSealings(n int) []impl.Sealing {
 }
 
 // everyList calls check with all lists of up to most elements that can be made of the given ones.
-func everyList(elements []impl.Sealing, most int, check func(list []impl.Sealing)) {
-	lists := [][]impl.Sealing{nil}
+func everyList[T any](elements []T, most int, check func(list []T)) {
+	lists := [][]T{nil}
 	for range most + 1 {
-		longer := [][]impl.Sealing{}
+		longer := [][]T{}
 		for _, list := range lists {
 			check(list)
-			for _, s := range elements {
-				longer = append(longer, append(slices.Clone(list), s))
+			for _, x := range elements {
+				longer = append(longer, append(slices.Clone(list), x))
 			}
 		}
 		lists = longer
