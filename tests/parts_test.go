@@ -483,6 +483,26 @@ func treeOf(folders ...int) impl.Part {
 	return p
 }
 
+// dirsOf has a directory for each list of entries.
+func dirsOf(lists ...[]impl.Entry) impl.Part {
+	p := impl.Part{}
+	for _, list := range lists {
+		p.Inodes = append(p.Inodes, dirOf(list...))
+	}
+	return p
+}
+
+// everyTree checks five directories, of which each is in any one or in none, with all cycles among them.
+func everyTree(check func(p impl.Part)) {
+	for choice := range 6 * 6 * 6 * 6 * 6 {
+		folders := []int{}
+		for rest := choice; len(folders) < 5; rest /= 6 {
+			folders = append(folders, rest%6-1)
+		}
+		check(treeOf(folders...))
+	}
+}
+
 // links are entries of the inodes with distinct names.
 func links(inodes ...int) []impl.Entry {
 	n := impl.Inode{}
@@ -633,20 +653,13 @@ func TestDepthsInCyclesOfDirectories(t *testing.T) {
 
 // Of the directories that link to an inode, only the first one counts.
 func TestDepthsWithTwoLinks(t *testing.T) {
-	dirs := func(lists ...[]impl.Entry) impl.Part {
-		p := impl.Part{}
-		for _, list := range lists {
-			p.Inodes = append(p.Inodes, dirOf(list...))
-		}
-		return p
-	}
-	checkDepths(t, dirs(links(1, 3), links(2), links(3), links()), 0, 1, 2, 1)
-	checkDepths(t, dirs(links(1), links(2, 3), links(3), links()), 0, 1, 2, 2)
-	checkDepths(t, dirs(links(2), links(3), links(1, 3), links()), 0, 2, 1, 3)
-	checkDepths(t, dirs(links(2), links(3), links(3), links()), 0, -1, 1, -1)
-	checkDepths(t, dirs(links(2), links(1, 3), links(1, 3), links()), 0, -1, 1, -1)
-	checkDepths(t, dirs(links(2, 2), links(), links(3, 1, 3), links(3)), 0, 2, 1, 2)
-	checkDepths(t, dirs(links(3), links(1), links(1), links(2)), 0, -1, 2, 1)
+	checkDepths(t, dirsOf(links(1, 3), links(2), links(3), links()), 0, 1, 2, 1)
+	checkDepths(t, dirsOf(links(1), links(2, 3), links(3), links()), 0, 1, 2, 2)
+	checkDepths(t, dirsOf(links(2), links(3), links(1, 3), links()), 0, 2, 1, 3)
+	checkDepths(t, dirsOf(links(2), links(3), links(3), links()), 0, -1, 1, -1)
+	checkDepths(t, dirsOf(links(2), links(1, 3), links(1, 3), links()), 0, -1, 1, -1)
+	checkDepths(t, dirsOf(links(2, 2), links(), links(3, 1, 3), links(3)), 0, 2, 1, 2)
+	checkDepths(t, dirsOf(links(3), links(1), links(1), links(2)), 0, -1, 2, 1)
 }
 
 // An entry leads up only from a directory.
@@ -722,13 +735,7 @@ func checkEachDepth(t *testing.T, p impl.Part, numbers []int) {
 // Each of five directories is in any one or in none.
 func TestDepthsForEveryChoiceOfOneDirectory(t *testing.T) {
 	numbers := []int{-1, 0, 1, 2, 3, 4, 5}
-	for choice := range 6 * 6 * 6 * 6 * 6 {
-		folders := []int{}
-		for rest := choice; len(folders) < 5; rest /= 6 {
-			folders = append(folders, rest%6-1)
-		}
-		checkEachDepth(t, treeOf(folders...), numbers)
-	}
+	everyTree(func(p impl.Part) { checkEachDepth(t, p, numbers) })
 }
 
 // Each of three inodes is a directory or a file, with any links to inodes that exist and to one that does not.
