@@ -164,12 +164,17 @@ func itemsWith(v impl.View, x impl.Item) impl.View {
 	return put
 }
 
+// isBelow goes by the bytes of two paths.
+func isBelow(path string, folder string) bool {
+	isUnder := folder == "/" || strings.HasPrefix(path, folder+"/")
+	return isUnder && path != folder && writtenCode(path) == 0 && writtenCode(folder) == 0
+}
+
 // itemsMoved inserts each item behind all those that are not greater.
 func itemsMoved(v impl.View, from string, to string) impl.View {
 	moved := impl.View{}
 	for _, x := range v.Items {
-		isUnder := writtenCode(x.Path) == 0 && writtenCode(from) == 0 && x.Path != from && (from == "/" || strings.HasPrefix(x.Path, from+"/"))
-		if x.Path == from || isUnder {
+		if x.Path == from || isBelow(x.Path, from) {
 			x.Path = to + strings.TrimPrefix(x.Path, from)
 		}
 		at := len(moved.Items)
